@@ -1,4 +1,4 @@
-// Package sample makes objects for the tests of the other packages.
+// Package sample makes objects and documents for the tests of the other packages.
 package sample
 
 import (

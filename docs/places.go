@@ -1,0 +1,54 @@
+package docs
+
+import (
+	"iter"
+
+	"foliant/api"
+	"foliant/give"
+)
+
+// places has the item of each number, or nil. Beside a list of items it finds, drops and puts one in at once, so that many changes take no longer than one.
+type places [api.MaxNum + 1]*api.Item
+
+// placesOf returns the places of the items of a valid document, in whose memory they stay.
+func placesOf(d api.Doc) *places {
+	p := new(places)
+	for i := range d.Items {
+		p[d.Items[i].Num] = &d.Items[i]
+	}
+	return p
+}
+
+// drop removes the item with the number num.
+func (p *places) drop(num int) {
+	if num < 1 || num > api.MaxNum || p[num] == nil {
+		give.Up(api.ErrNone)
+	}
+	p[num] = nil
+}
+
+// put puts in the item i, in place of the one that has its number.
+func (p *places) put(i api.Item) {
+	give.UpOn(checkItem(i, 0))
+	p[i.Num] = &i
+}
+
+// numbers yields the numbers of the items.
+func (p *places) numbers() iter.Seq[int] {
+	return func(yield func(int) bool) {
+		for num, i := range p {
+			if i != nil && !yield(num) {
+				return
+			}
+		}
+	}
+}
+
+// items returns the items, which share no memory with those that were put in.
+func (p *places) items() []api.Item {
+	var list []api.Item
+	for num := range p.numbers() {
+		list = append(list, cloneItem(*p[num]))
+	}
+	return list
+}
