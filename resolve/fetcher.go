@@ -7,6 +7,7 @@ import (
 	"foliant/body"
 	"foliant/bundle"
 	"foliant/give"
+	"foliant/octet"
 )
 
 // A fetcher fetches objects from the file s.
@@ -18,6 +19,8 @@ type fetcher struct {
 	pending map[int]bool
 	// fetched has what became of the others. It stays the same whichever numbers are being fetched, since an object needs one other at most: where one needs itself in the end, all those on the way do, and have the same error.
 	fetched map[int]result
+	// read has what stands at each offset, which does not depend on those either: however many entries lead to an object, it is read once.
+	read map[int]result
 	// bundles has the object streams that are open, by their numbers.
 	bundles map[int]bundle.Bundle
 }
@@ -29,7 +32,7 @@ type result struct {
 }
 
 func newFetcher(s string, find func(num int) (api.Slot, bool)) *fetcher {
-	return &fetcher{s: s, find: find, pending: map[int]bool{}, fetched: map[int]result{}, bundles: map[int]bundle.Bundle{}}
+	return &fetcher{s: s, find: find, pending: map[int]bool{}, fetched: map[int]result{}, read: map[int]result{}, bundles: map[int]bundle.Bundle{}}
 }
 
 // fetch returns the object with the number num.
@@ -61,15 +64,27 @@ func (f *fetcher) item(num int) api.Item {
 
 // plain reads the object of a plain entry.
 func (f *fetcher) plain(slot api.Slot) api.Item {
-	length := -1
-	if o, e := body.Length(f.s, slot.A); e == api.OK && o.Kind == api.KRef {
-		length = f.length(int(o.N))
+	at := octet.Skip(f.s, slot.A)
+	r, ok := f.read[at]
+	if !ok {
+		r.item, r.err = give.Caught(func() api.Item { return f.stands(at) })
+		f.read[at] = r
 	}
-	i, _, e := body.Read(f.s, slot.A, length)
-	give.UpOn(e)
+	i := give.Value(r.item, r.err)
 	if i.Num != slot.Num || i.Gen != slot.B {
 		give.Up(api.ErrPlace)
 	}
+	return i
+}
+
+// stands reads the object that stands at an offset, or gives up.
+func (f *fetcher) stands(at int) api.Item {
+	length := -1
+	if o, e := body.Length(f.s, at); e == api.OK && o.Kind == api.KRef {
+		length = f.length(int(o.N))
+	}
+	i, _, e := body.Read(f.s, at, length)
+	give.UpOn(e)
 	return i
 }
 

@@ -103,6 +103,9 @@ func mixed(seed uint32) (string, []api.Slot) {
 			b.slots[i].B = pick(&seed, 3)
 		}
 		other := pick(&seed, len(b.slots))
+		if pick(&seed, 12) == 0 {
+			b.slots[i].A = b.slots[other].A - pick(&seed, 2)
+		}
 		b.slots[i], b.slots[other] = b.slots[other], b.slots[i]
 	}
 	return b.text.String(), b.slots

@@ -1,0 +1,89 @@
+// Package scribe puts files together. The writers of whole files and of updates share it.
+package scribe
+
+import (
+	"cmp"
+	"maps"
+	"slices"
+	"strings"
+
+	"foliant/api"
+	"foliant/body"
+	"foliant/cross"
+	"foliant/give"
+	"foliant/head"
+	"foliant/table"
+)
+
+// A Writer writes a file from its beginning to its end. Its methods give up with the first error.
+type Writer struct {
+	text strings.Builder
+	// size is the length of all that was put, whether it is kept or not.
+	size int
+	// slots has the entry of each number.
+	slots map[int]api.Slot
+}
+
+// File returns the file that assemble writes, or the error with which it gives up, or else ErrLong if the file is too long.
+func File(assemble func(w *Writer)) (string, api.Errno) {
+	return give.Caught(func() string {
+		w := &Writer{slots: map[int]api.Slot{}}
+		assemble(w)
+		w.Fit()
+		return w.text.String()
+	})
+}
+
+// Fit gives up if what was put is too long already.
+func (w *Writer) Fit() {
+	if w.size > api.MaxFile {
+		give.Up(api.ErrLong)
+	}
+}
+
+// Put puts text. What is too long for a file is only counted, since objects may share the memory of their data, of which their texts would take many times as much.
+func (w *Writer) Put(text string) {
+	w.size += len(text)
+	if w.size <= api.MaxFile {
+		w.text.WriteString(text)
+	}
+}
+
+// Header puts the header of a file of version 1 and minor.
+func (w *Writer) Header(minor int) { w.Put(give.Value(head.Text(minor))) }
+
+// Item puts the text of an item, and enters where it begins.
+func (w *Writer) Item(i api.Item) {
+	text := give.Value(body.Text(i))
+	w.Enter(api.Slot{Num: i.Num, Kind: api.SlotPlain, A: w.size, B: i.Gen})
+	w.Put(text)
+}
+
+// Enter takes in the entry of a number.
+func (w *Writer) Enter(slot api.Slot) { w.slots[slot.Num] = slot }
+
+// Entered reports whether a number has an entry.
+func (w *Writer) Entered(num int) bool {
+	_, ok := w.slots[num]
+	return ok
+}
+
+// Entries returns all entries, in increasing order of their numbers.
+func (w *Writer) Entries() []api.Slot {
+	return slices.SortedFunc(maps.Values(w.slots), func(a, b api.Slot) int { return cmp.Compare(a.Num, b.Num) })
+}
+
+// Table puts a table of all entries, and the end of the file.
+func (w *Writer) Table(trailer api.Object) {
+	at := w.size
+	w.Put(give.Value(table.Text(api.Section{Slots: w.Entries(), Trailer: trailer})))
+	w.Put(head.Tail(at))
+}
+
+// Stream puts a cross-reference stream with the number own of all entries and its own, and the end of the file. The section before it begins at prev, which is -1 if there is none.
+func (w *Writer) Stream(own int, trailer api.Object, prev int) {
+	at := w.size
+	w.Enter(api.Slot{Num: own, Kind: api.SlotPlain, A: at})
+	w.Item(give.Value(cross.Make(api.Section{Slots: w.Entries(), Trailer: trailer, Prev: prev, Own: own})))
+	w.Put(head.Tail(at))
+}
