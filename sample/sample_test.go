@@ -1,6 +1,7 @@
 package sample_test
 
 import (
+	"slices"
 	"testing"
 
 	"foliant/api"
@@ -25,7 +26,7 @@ func TestSamplesAreValid(t *testing.T) {
 }
 
 func TestDocumentsAreValid(t *testing.T) {
-	for i, d := range append(append(sample.Docs(), sample.Webs()...), sample.Chain(1, 0), sample.Chain(api.MaxNum-1, api.MaxDepth-2)) {
+	for i, d := range slices.Concat(sample.Docs(), sample.Webs(), sample.Trees(), []api.Doc{sample.Chain(1, 0), sample.Chain(api.MaxNum-1, api.MaxDepth-2)}) {
 		if e := docs.Check(d); e != api.OK {
 			t.Errorf("document %d has the error %d", i, e)
 		}
@@ -41,6 +42,26 @@ func TestBadSamplesAreBad(t *testing.T) {
 	for i, b := range sample.BadDocs() {
 		if e := docs.Check(b.Is); e != b.Err {
 			t.Errorf("bad document %d has the error %d, not %d", i, e, b.Err)
+		}
+	}
+}
+
+func TestCopyAndSpoil(t *testing.T) {
+	for i, d := range slices.Concat(sample.Docs(), sample.Webs(), sample.Trees()) {
+		again, spoiled := sample.Copy(d), sample.Copy(d)
+		sample.SpoilDoc(spoiled)
+		if !docs.Same(d, again) || docs.Same(d, spoiled) {
+			t.Errorf("document %d shares memory with its copy, or is not spoiled", i)
+		}
+		for n := range d.Items {
+			o := sample.Copy(d).Items[n].Obj
+			sample.Spoil(o)
+			if value.Same(o, d.Items[n].Obj) != (len(o.Kids) == 0) {
+				t.Errorf("item %d of document %d is not spoiled", n, i)
+			}
+			if len(d.Items) > 1000 {
+				break
+			}
 		}
 	}
 }

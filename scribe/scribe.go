@@ -15,11 +15,36 @@ import (
 	"foliant/table"
 )
 
-// A Writer writes a file from its beginning to its end. Its methods give up with the first error.
-type Writer struct {
-	text strings.Builder
+// A Text is put together piece by piece. What is too long for a file is only counted, since objects may share the memory of their data, of which their texts would take many times as much.
+type Text struct {
+	kept strings.Builder
 	// size is the length of all that was put, whether it is kept or not.
 	size int
+}
+
+// Put puts a piece.
+func (t *Text) Put(piece string) {
+	t.size += len(piece)
+	if t.size <= api.MaxFile {
+		t.kept.WriteString(piece)
+	}
+}
+
+// Add puts all that was put into another text.
+func (t *Text) Add(other *Text) {
+	t.Put(other.kept.String())
+	t.size += other.size - other.kept.Len()
+}
+
+// Size returns the length of all that was put.
+func (t *Text) Size() int { return t.size }
+
+// String returns all that was put, if it fits in a file.
+func (t *Text) String() string { return t.kept.String() }
+
+// A Writer writes a file from its beginning to its end. Its methods give up with the first error.
+type Writer struct {
+	Text
 	// slots has the entry of each number.
 	slots map[int]api.Slot
 }
@@ -30,7 +55,7 @@ func File(assemble func(w *Writer)) (string, api.Errno) {
 		w := &Writer{slots: map[int]api.Slot{}}
 		assemble(w)
 		w.Fit()
-		return w.text.String()
+		return w.String()
 	})
 }
 
@@ -38,14 +63,6 @@ func File(assemble func(w *Writer)) (string, api.Errno) {
 func (w *Writer) Fit() {
 	if w.size > api.MaxFile {
 		give.Up(api.ErrLong)
-	}
-}
-
-// Put puts text. What is too long for a file is only counted, since objects may share the memory of their data, of which their texts would take many times as much.
-func (w *Writer) Put(text string) {
-	w.size += len(text)
-	if w.size <= api.MaxFile {
-		w.text.WriteString(text)
 	}
 }
 

@@ -52,3 +52,48 @@ func TestEntries(t *testing.T) {
 		t.Errorf("File has the error %d", e)
 	}
 }
+
+func TestText(t *testing.T) {
+	long := strings.Repeat("x", api.MaxFile-3)
+	of := func(pieces ...string) *scribe.Text {
+		text := new(scribe.Text)
+		for _, piece := range pieces {
+			text.Put(piece)
+		}
+		return text
+	}
+	for i, c := range []struct {
+		text *scribe.Text
+		more []*scribe.Text
+		size int
+		want string
+	}{
+		{of(), nil, 0, ""},
+		{of("ab", "", "c"), nil, 3, "abc"},
+		{of("ab"), []*scribe.Text{of(), of("c", "d"), of("e")}, 5, "abcde"},
+		{of("ab"), []*scribe.Text{of(long), of("c")}, api.MaxFile, "ab" + long + "c"},
+	} {
+		for _, text := range c.more {
+			c.text.Add(text)
+		}
+		if c.text.Size() != c.size || c.text.String() != c.want {
+			t.Errorf("text %d is %d bytes, want %d", i, c.text.Size(), c.size)
+		}
+	}
+	// What doesn't fit is counted, and not kept.
+	for i, c := range []struct {
+		text, more *scribe.Text
+		size       int
+	}{
+		{of(long, "abcd"), of(), api.MaxFile + 1},
+		{of(long, "abcd", "e"), of("f"), api.MaxFile + 3},
+		{of("abcd"), of(long), api.MaxFile + 1},
+		{of("ab"), of(long, long, "c"), 2*api.MaxFile - 3},
+		{of(long, long), of(long, long), 4*api.MaxFile - 12},
+	} {
+		c.text.Add(c.more)
+		if c.text.Size() != c.size || len(c.text.String()) > api.MaxFile {
+			t.Errorf("long text %d is %d bytes, of which %d are kept, want %d", i, c.text.Size(), len(c.text.String()), c.size)
+		}
+	}
+}

@@ -3,6 +3,7 @@ package web
 
 import (
 	"iter"
+	"slices"
 
 	"foliant/api"
 )
@@ -35,6 +36,48 @@ func (w Web) Item(ref api.Object) (api.Item, bool) {
 		return api.Item{}, false
 	}
 	return *i, true
+}
+
+// Num returns the item with the number num, and whether there is one.
+func (w Web) Num(num int) (api.Item, bool) {
+	if num < 0 || num >= len(w.items) || w.items[num] == nil {
+		return api.Item{}, false
+	}
+	return *w.items[num], true
+}
+
+// Dict returns the item that a valid object refers to, and whether it is a reference to a dictionary.
+func (w Web) Dict(o api.Object) (api.Item, bool) {
+	if o.Kind != api.KRef {
+		return api.Item{}, false
+	}
+	i, ok := w.Item(o)
+	if !ok || i.Obj.Kind != api.KDict {
+		return api.Item{}, false
+	}
+	return i, true
+}
+
+// Follow returns what a valid object resolves to, in the memory of the object or the document.
+func (w Web) Follow(o api.Object) api.Object {
+	if o.Kind != api.KRef {
+		return o
+	}
+	i, _ := w.Item(o)
+	return i.Obj
+}
+
+// Path returns the object to which the keys lead from a valid object, each reference resolved on the way, or null if one of them is absent. It is as docs.Path, but for the memory, which is that of the object or the document, and for the time it takes.
+func (w Web) Path(o api.Object, keys ...string) api.Object {
+	o = w.Follow(o)
+	for _, key := range keys {
+		at, ok := slices.BinarySearch(o.Keys, key)
+		if !ok {
+			return api.Object{}
+		}
+		o = w.Follow(o.Kids[at])
+	}
+	return o
 }
 
 // Visits yields the items that a depth-first traversal of o visits, in the order of their first visits. What is still to be traversed stands in a list, since items can form a chain too long to recur along.

@@ -1,10 +1,12 @@
 package web_test
 
 import (
+	"math"
 	"slices"
 	"testing"
 
 	"foliant/api"
+	"foliant/docs"
 	"foliant/sample"
 	"foliant/value"
 	"foliant/web"
@@ -101,6 +103,51 @@ func TestRefs(t *testing.T) {
 	for r := range web.Refs(sample.Ref(5, 6)) {
 		if r.N != 5 || r.G != 6 {
 			t.Errorf("a reference holds %v", r)
+		}
+	}
+}
+
+func TestNum(t *testing.T) {
+	d := sample.Doc(2, api.Item{Num: 2, Obj: sample.Dict("")}, api.Item{Num: 4, Gen: 7, Obj: value.Int(7)})
+	w := web.Of(d)
+	for num, ok := range map[int]bool{-1: false, 0: false, 1: false, 2: true, 3: false, 4: true, 5: false, api.MaxNum: false, math.MaxInt: false, math.MinInt: false} {
+		i, got := w.Num(num)
+		if got != ok || ok && i.Num != num || !ok && (i.Num != 0 || i.Obj.Kind != 0) {
+			t.Errorf("item %d is %v, %v", num, i, got)
+		}
+	}
+}
+
+func TestDict(t *testing.T) {
+	d := sample.Doc(2, api.Item{Num: 2, Obj: sample.Dict("A", ref(2))}, api.Item{Num: 4, Gen: 7, Obj: sample.Dict("")}, api.Item{Num: 5, Obj: api.Object{Kind: api.KStream}}, api.Item{Num: 6, Obj: value.Array(ref(2))})
+	w := web.Of(d)
+	for n, c := range []struct {
+		o    api.Object
+		want int
+	}{
+		{ref(2), 2}, {sample.Ref(4, 7), 4}, {ref(4), 0}, {ref(5), 0}, {ref(6), 0}, {ref(3), 0}, {ref(9), 0}, {sample.Dict("A", ref(2)), 0}, {value.Int(2), 0}, {value.Int(-2), 0}, {value.Null(), 0}, {value.Array(ref(2)), 0},
+	} {
+		if i, ok := w.Dict(c.o); ok != (c.want > 0) || i.Num != c.want || !ok && i.Obj.Kind != 0 {
+			t.Errorf("Dict %d is %v, %v", n, i, ok)
+		}
+	}
+}
+
+func TestFollowAndPath(t *testing.T) {
+	stream := api.Object{Kind: api.KStream, Keys: []string{"A"}, Kids: []api.Object{ref(2)}}
+	for n, d := range append(sample.Webs(), sample.Doc(1, api.Item{Num: 1, Obj: sample.Dict("A B", ref(2), value.Int(7))}, api.Item{Num: 2, Obj: sample.Dict("A B", ref(1), stream.Kids[0])}, api.Item{Num: 3, Obj: stream})) {
+		w := web.Of(d)
+		for num := range 20 {
+			for _, o := range []api.Object{sample.Ref(1+num, n%2), value.Array(ref(1)), sample.Dict("A C", ref(1+num), value.Int(7)), value.Null(), value.Name("A")} {
+				if got, want := w.Follow(o), docs.Follow(d, o); !value.Same(got, want) {
+					t.Errorf("%v is followed to %v, not %v", o, got, want)
+				}
+				for _, keys := range [][]string{nil, {"A"}, {"B"}, {"C"}, {""}, {"A", "B"}, {"A", "A", "B"}, {"C", "A"}} {
+					if got, want := w.Path(o, keys...), docs.Path(d, o, keys...); !value.Same(got, want) {
+						t.Errorf("%v leads from %v to %v, not %v", keys, o, got, want)
+					}
+				}
+			}
 		}
 	}
 }
