@@ -83,8 +83,8 @@ func (g *grove) either(o api.Object) api.Object {
 // among returns one of the objects.
 func (g *grove) among(list ...api.Object) api.Object { return list[g.pick(len(list))] }
 
-// any returns a reference to something, which may not be there.
-func (g *grove) any() api.Object {
+// anything returns a reference to something, which may not be there.
+func (g *grove) anything() api.Object {
 	if len(g.refs) == 0 || g.once(9) {
 		return Ref(1+g.pick(40), g.pick(2))
 	}
@@ -97,9 +97,9 @@ func (g *grove) doc() api.Doc {
 	if g.once(2) {
 		g.next()
 	}
-	entries := map[string]api.Object{"Type": g.among(name("Catalog"), name("Catalog"), api.Object{}), "Extra": g.any(), "Pages": g.node(root, 1)}
+	entries := map[string]api.Object{"Type": g.among(name("Catalog"), name("Catalog"), api.Object{}), "Extra": g.anything(), "Pages": g.node(root, 1)}
 	if g.flaw() {
-		entries["Pages"] = g.among(api.Object{}, g.any(), root, Array(g.any()))
+		entries["Pages"] = g.among(api.Object{}, g.anything(), root, Array(g.anything()))
 	}
 	g.set(root, Entries(entries))
 	for range g.pick(4) {
@@ -107,7 +107,7 @@ func (g *grove) doc() api.Doc {
 	}
 	d := api.Doc{Items: g.items, Trailer: Dict("Root", root)}
 	if g.once(4) {
-		d.Trailer = Dict("Info Root", g.any(), root)
+		d.Trailer = Dict("Info Root", g.anything(), root)
 	}
 	return d
 }
@@ -116,11 +116,11 @@ func (g *grove) doc() api.Doc {
 func (g *grove) node(parent api.Object, depth int) api.Object {
 	g.size--
 	if g.flaw() {
-		return g.among(g.any(), api.Object{}, Dict("Type", name("Page")), Ref(99, 0))
+		return g.among(g.anything(), api.Object{}, Dict("Type", name("Page")), Ref(99, 0))
 	}
 	ref := g.next()
 	entries := g.traits()
-	entries["Parent"] = g.among(parent, parent, parent, g.any(), api.Object{}, Array(g.any(), parent))
+	entries["Parent"] = g.among(parent, parent, parent, g.anything(), api.Object{}, Array(g.anything(), parent))
 	entries["Needs"] = g.extra()
 	entries["Type"] = g.either(name("Page"))
 	if depth < 6 && g.size > 0 && !g.once(3) {
@@ -134,13 +134,13 @@ func (g *grove) node(parent api.Object, depth int) api.Object {
 		}
 		entries["Kids"] = g.either(kids)
 		if g.flaw() {
-			entries["Kids"] = g.among(api.Object{}, g.any(), Dict(""))
+			entries["Kids"] = g.among(api.Object{}, g.anything(), Dict(""))
 		}
 	} else {
 		entries["Contents"] = g.contents()
 	}
 	if g.flaw() {
-		entries["Type"] = g.among(api.Object{}, name("page"), g.any())
+		entries["Type"] = g.among(api.Object{}, name("page"), g.anything())
 	}
 	return g.set(ref, Entries(entries))
 }
@@ -149,11 +149,11 @@ func (g *grove) node(parent api.Object, depth int) api.Object {
 func (g *grove) extra() api.Object {
 	switch g.pick(5) {
 	case 0:
-		return g.any()
+		return g.anything()
 	case 1:
-		return Array(g.any(), g.either(Array(g.any(), Dict("A", g.any()))))
+		return Array(g.anything(), g.either(Array(g.anything(), Dict("A", g.anything()))))
 	case 2:
-		return g.either(Dict("A Parent", g.any(), g.any()))
+		return g.either(Dict("A Parent", g.anything(), g.anything()))
 	}
 	return api.Object{}
 }
@@ -169,7 +169,7 @@ func (g *grove) number() api.Object {
 // box returns a rectangle.
 func (g *grove) box() api.Object {
 	if g.flaw() {
-		return g.among(name("A4"), Array(g.number(), g.number(), g.number()), Array(g.number(), g.number(), g.number(), g.any()), Dict(""))
+		return g.among(name("A4"), Array(g.number(), g.number(), g.number()), Array(g.number(), g.number(), g.number(), g.anything()), Dict(""))
 	}
 	return g.either(Array(g.number(), g.number(), g.number(), g.number()))
 }
@@ -187,13 +187,13 @@ func (g *grove) traits() map[string]api.Object {
 		entries["Rotate"] = g.either(api.Object{Kind: api.KInt, N: int64(90 * (g.pick(12) - 6))})
 	}
 	if g.once(3) {
-		entries["Resources"] = g.either(Dict("Font", g.either(Dict("F", g.any()))))
+		entries["Resources"] = g.either(Dict("Font", g.either(Dict("F", g.anything()))))
 	}
 	if g.flaw() {
-		entries["Rotate"] = g.among(g.any(), api.Object{Kind: api.KInt, N: 45}, api.Object{Kind: api.KReal, N: 900000})
+		entries["Rotate"] = g.among(g.anything(), api.Object{Kind: api.KInt, N: 45}, api.Object{Kind: api.KReal, N: 900000})
 	}
 	if g.flaw() {
-		entries["Resources"] = g.among(g.any(), Array())
+		entries["Resources"] = g.among(g.anything(), Array())
 	}
 	for _, key := range []string{"MediaBox", "CropBox", "Rotate", "Resources"} {
 		if g.once(12) {
@@ -224,7 +224,7 @@ func (g *grove) contents() api.Object {
 	case g.once(2):
 		return g.either(g.stream())
 	case g.flaw():
-		return g.among(g.any(), name("q"), Array(g.any()))
+		return g.among(g.anything(), name("q"), Array(g.anything()))
 	}
 	list := Array()
 	for range g.pick(4) {
