@@ -27,13 +27,9 @@ func ref(num int) api.Object { return sample.Ref(num, 0) }
 // isDoc holds a result against what it should be, and its memory against that of the document it comes from.
 func isDoc(t *testing.T, what string, from, got api.Doc, e api.Errno, want api.Doc, wantErr api.Errno) {
 	t.Helper()
-	if !docs.Same(got, want) || e != wantErr {
-		t.Errorf("%s of %s = %s, %d, want %s, %d", what, brief(from), brief(got), e, brief(want), wantErr)
-	}
-	was := sample.Copy(from)
-	sample.SpoilDoc(got)
-	if !docs.Same(from, was) {
-		t.Errorf("%s of %s shares memory", what, brief(was))
+	result := sample.Copy(got)
+	if wrong := sample.Wrong(from, got, e, want, wantErr); wrong != "" {
+		t.Errorf("%s of %s = %s, want %s: %s", what, brief(from), brief(result), brief(want), wrong)
 	}
 }
 

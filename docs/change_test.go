@@ -342,3 +342,38 @@ func TestFoundMemory(t *testing.T) {
 		t.Errorf("the document was changed: %s", brief(d))
 	}
 }
+
+// addEach adds objects one after the other.
+func addEach(d api.Doc, l []api.Object) (api.Doc, api.Errno) {
+	e := docs.Check(d)
+	for _, o := range l {
+		if e == api.OK {
+			d, _, e = docs.Add(d, o)
+		}
+	}
+	if e != api.OK {
+		return api.Doc{}, e
+	}
+	return d, api.OK
+}
+
+// Extend does what Add does, for many objects.
+func TestExtend(t *testing.T) {
+	deep := sample.Nest(value.Int(1), api.MaxDepth)
+	lists := [][]api.Object{nil, {value.Int(1)}, {value.Null(), sample.Dict("A", value.Ref(4, 0)), value.Array(value.Array())}, {value.Int(1), {Kind: 99}, deep}, {deep, {Kind: 99}}, {value.Ref(1, 0)}, {typed(value.Name("XRef"))}, {value.Int(1), value.Ref(0, 0), value.Int(2)}}
+	list := append(sample.Docs(), sample.Doc(api.MaxNum-1, catalog(api.MaxNum-1)), sample.Doc(api.MaxNum-2, catalog(api.MaxNum-2)))
+	for _, f := range faults() {
+		list = append(list, f.doc)
+	}
+	for _, d := range list {
+		for _, l := range lists {
+			want, wantErr := addEach(d, l)
+			was := clone(api.Doc{Trailer: value.Array(l...)})
+			got, e := docs.Extend(d, l...)
+			checkDoc(t, "Extend", d, got, e, want, wantErr)
+			if !same(api.Doc{Trailer: value.Array(l...)}, was) {
+				t.Errorf("Extend shares memory with the objects")
+			}
+		}
+	}
+}

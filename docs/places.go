@@ -5,6 +5,7 @@ import (
 
 	"foliant/api"
 	"foliant/give"
+	"foliant/value"
 )
 
 // places has the item of each number, or nil. Beside a list of items it finds, drops and puts one in at once, so that many changes take no longer than one.
@@ -44,11 +45,12 @@ func (p *places) numbers() iter.Seq[int] {
 	}
 }
 
-// items returns the items, which share no memory with those that were put in.
-func (p *places) items() []api.Item {
-	var list []api.Item
+// doc returns the document of the items with a trailer, which shares no memory with them, or gives up if the trailer does not lead to a catalog.
+func (p *places) doc(trailer api.Object) api.Doc {
+	d := api.Doc{Trailer: value.Clone(trailer)}
 	for num := range p.numbers() {
-		list = append(list, cloneItem(*p[num]))
+		d.Items = append(d.Items, cloneItem(*p[num]))
 	}
-	return list
+	give.UpOn(checkTrailer(d))
+	return d
 }

@@ -26,7 +26,7 @@ func TestSamplesAreValid(t *testing.T) {
 }
 
 func TestDocumentsAreValid(t *testing.T) {
-	for i, d := range slices.Concat(sample.Docs(), sample.Webs(), sample.Trees(), []api.Doc{sample.Chain(1, 0), sample.Chain(api.MaxNum-1, api.MaxDepth-2)}) {
+	for i, d := range slices.Concat(sample.Docs(), sample.Webs(), sample.Trees(), sample.Books(), []api.Doc{sample.Chain(1, 0), sample.Chain(api.MaxNum-1, api.MaxDepth-2)}) {
 		if e := docs.Check(d); e != api.OK {
 			t.Errorf("document %d has the error %d", i, e)
 		}
@@ -47,7 +47,7 @@ func TestBadSamplesAreBad(t *testing.T) {
 }
 
 func TestCopyAndSpoil(t *testing.T) {
-	for i, d := range slices.Concat(sample.Docs(), sample.Webs(), sample.Trees()) {
+	for i, d := range slices.Concat(sample.Docs(), sample.Webs(), sample.Trees(), sample.Books()) {
 		again, spoiled := sample.Copy(d), sample.Copy(d)
 		sample.SpoilDoc(spoiled)
 		if !docs.Same(d, again) || docs.Same(d, spoiled) {
@@ -62,6 +62,40 @@ func TestCopyAndSpoil(t *testing.T) {
 			if len(d.Items) > 1000 {
 				break
 			}
+		}
+	}
+}
+
+func TestWrong(t *testing.T) {
+	d := func() api.Doc { return sample.Doc(1, api.Item{Num: 1, Obj: sample.Dict("A", sample.Ref(2, 0))}) }
+	shared, invalid := d(), sample.Doc(2, d().Items...)
+	for _, c := range []struct {
+		from, got api.Doc
+		e         api.Errno
+		want      api.Doc
+		wantErr   api.Errno
+		wrong     string
+	}{
+		{d(), d(), api.OK, d(), api.OK, ""},
+		{d(), api.Doc{}, api.ErrEnd, api.Doc{}, api.ErrEnd, ""},
+		{d(), api.Doc{}, api.ErrEnd, api.Doc{}, api.ErrLong, "error 4, not 5"},
+		{d(), d(), api.ErrEnd, api.Doc{}, api.ErrEnd, "another document"},
+		{d(), api.Doc{}, api.OK, d(), api.OK, "another document"},
+		{d(), invalid, api.OK, invalid, api.OK, "not valid"},
+		{shared, shared, api.OK, d(), api.OK, "shares memory"},
+	} {
+		if wrong := sample.Wrong(c.from, c.got, c.e, c.want, c.wantErr); wrong != c.wrong {
+			t.Errorf("%q is wrong, not %q", wrong, c.wrong)
+		}
+	}
+}
+
+func TestSettled(t *testing.T) {
+	d := sample.Doc(1, api.Item{Num: 1, Obj: sample.Dict("A", sample.Array(sample.Ref(3, 5)))}, api.Item{Num: 2, Obj: sample.Dict("")})
+	for num, settled := range map[int]bool{2: true, 3: false, 4: true} {
+		got, _ := docs.Put(d, api.Item{Num: num})
+		if sample.Settled(d, got) != settled {
+			t.Errorf("a document with item %d added is settled: %v", num, !settled)
 		}
 	}
 }

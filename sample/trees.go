@@ -11,8 +11,8 @@ import (
 func Trees() []api.Doc {
 	var list []api.Doc
 	for n := range 600 {
-		g := grove{mixer: mixer{uint32(n)}, size: 1 + n%23, flawed: n%2 == 0}
-		list = append(list, g.doc())
+		g := grove{mixer: mixer{uint32(n)}, size: 1 + n%23, flawed: n%2 == 0, odds: 80}
+		list = append(list, g.doc(func(map[string]api.Object) {}))
 	}
 	return list
 }
@@ -22,11 +22,12 @@ type grove struct {
 	mixer
 	// size is how many nodes the tree may still have.
 	size int
-	// flawed tells that something in it may be wrong.
+	// flawed tells that something in it may be wrong, once in about so many times as odds says.
 	flawed bool
+	odds   int
 	items  []api.Item
-	// refs has references to what there is, and to what there isn't.
-	refs []api.Object
+	// refs has references to what there is, and to what there isn't, and leaves those to the leaves of the page tree.
+	refs, leaves []api.Object
 }
 
 // Entries returns the dictionary of the entries, without those that are null.
@@ -48,7 +49,7 @@ func name(s string) api.Object { return api.Object{Kind: api.KName, S: s} }
 func (g *grove) once(times int) bool { return g.pick(times) == 0 }
 
 // flaw is true now and then in a tree in which something may be wrong.
-func (g *grove) flaw() bool { return g.flawed && g.once(80) }
+func (g *grove) flaw() bool { return g.flawed && g.once(g.odds) }
 
 // next returns a reference to an item that is still null.
 func (g *grove) next() api.Object {
@@ -91,8 +92,8 @@ func (g *grove) anything() api.Object {
 	return g.among(g.refs...)
 }
 
-// doc makes the document.
-func (g *grove) doc() api.Doc {
+// doc makes the document, with the entries in its catalog that add adds once there are pages.
+func (g *grove) doc(add func(entries map[string]api.Object)) api.Doc {
 	root := g.next()
 	if g.once(2) {
 		g.next()
@@ -101,6 +102,7 @@ func (g *grove) doc() api.Doc {
 	if g.flaw() {
 		entries["Pages"] = g.among(api.Object{}, g.anything(), root, Array(g.anything()))
 	}
+	add(entries)
 	g.set(root, Entries(entries))
 	for range g.pick(4) {
 		g.either(Entries(map[string]api.Object{"Needs": g.extra()}))
@@ -138,6 +140,7 @@ func (g *grove) node(parent api.Object, depth int) api.Object {
 		}
 	} else {
 		entries["Contents"] = g.contents()
+		g.leaves = append(g.leaves, ref)
 	}
 	if g.flaw() {
 		entries["Type"] = g.among(api.Object{}, name("page"), g.anything())

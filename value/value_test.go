@@ -308,3 +308,13 @@ func TestMakers(t *testing.T) {
 		t.Errorf("Array shares memory with its kids")
 	}
 }
+
+// A number of units is an integer if it is whole.
+func TestUnits(t *testing.T) {
+	for n, want := range map[int64]api.Object{0: value.Int(0), 1: value.Real(1), -1: value.Real(-1), 10000: value.Int(1), -30000: value.Int(-3), 29999: value.Real(29999), api.MaxFix: value.Real(api.MaxFix), 1073740000: value.Int(107374)} {
+		o := value.Units(n)
+		if back, ok := value.Number(o); !value.Same(o, want) || back != n || !ok {
+			t.Errorf("Units(%d) = %v, want %v", n, o, want)
+		}
+	}
+}

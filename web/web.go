@@ -71,13 +71,22 @@ func (w Web) Follow(o api.Object) api.Object {
 func (w Web) Path(o api.Object, keys ...string) api.Object {
 	o = w.Follow(o)
 	for _, key := range keys {
-		at, ok := slices.BinarySearch(o.Keys, key)
+		kid, ok := Get(o, key)
 		if !ok {
 			return api.Object{}
 		}
-		o = w.Follow(o.Kids[at])
+		o = w.Follow(kid)
 	}
 	return o
+}
+
+// Get returns the value of a key of a valid object, in the object's memory, and whether there is one.
+func Get(o api.Object, key string) (api.Object, bool) {
+	at, ok := slices.BinarySearch(o.Keys, key)
+	if !ok {
+		return api.Object{}, false
+	}
+	return o.Kids[at], true
 }
 
 // Visits yields the items that a depth-first traversal of o visits, in the order of their first visits. What is still to be traversed stands in a list, since items can form a chain too long to recur along.

@@ -151,3 +151,17 @@ func TestFollowAndPath(t *testing.T) {
 		}
 	}
 }
+
+func TestGet(t *testing.T) {
+	o := sample.Dict("A B", value.Array(ref(1)), ref(2))
+	for key, want := range map[string]api.Object{"A": value.Array(ref(1)), "B": ref(2), "": value.Null(), "AA": value.Null(), "C": value.Null()} {
+		if v, ok := web.Get(o, key); !value.Same(v, want) || ok != (want.Kind != api.KNull) {
+			t.Errorf("Get of %q is %v, %v", key, v, ok)
+		}
+	}
+	for _, o := range []api.Object{value.Null(), value.Name("A"), value.Array(value.Name("A")), ref(1)} {
+		if v, ok := web.Get(o, "A"); ok || v.Kind != 0 {
+			t.Errorf("Get in %v is %v, %v", o, v, ok)
+		}
+	}
+}
