@@ -56,7 +56,7 @@ func (t tree) page(n node) api.Page {
 
 // box returns the rectangle of a box.
 func (t tree) box(o api.Object) api.Rect {
-	r, e := rectOf(o, t.web.Follow)
+	r, e := Box(t.web, o)
 	if e != api.OK {
 		give.Up(api.ErrPage)
 	}

@@ -13,6 +13,7 @@ import (
 	"foliant/pages"
 	"foliant/sample"
 	"foliant/value"
+	"foliant/web"
 )
 
 // brief shows the beginning of anything.
@@ -387,6 +388,12 @@ func TestRect(t *testing.T) {
 	} {
 		if r, e := pages.Rect(c.d, c.o); r != c.want || e != c.err {
 			t.Errorf("Rect %d = %v, %d, want %v, %d", i, r, e, c.want, c.err)
+		}
+		if docs.Check(c.d) != api.OK || value.Check(c.o) != api.OK {
+			continue
+		}
+		if r, e := pages.Box(web.Of(c.d), c.o); r != c.want || e != c.err {
+			t.Errorf("Box %d = %v, %d, want %v, %d", i, r, e, c.want, c.err)
 		}
 	}
 }
