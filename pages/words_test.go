@@ -264,3 +264,45 @@ func TestPagesAgree(t *testing.T) {
 		}
 	}
 }
+
+// Each, by which draw goes through the pages: what Get and Content return for each of them, or the error of the tree.
+func TestEach(t *testing.T) {
+	all := slices.Concat(sample.Trees(), sample.Webs(), sample.Docs()[:3])
+	for _, b := range sample.BadDocs() {
+		all = append(all, b.Is)
+	}
+	errs := map[api.Errno]int{}
+	for _, d := range all {
+		was := sample.Copy(d)
+		n, treeErr := pages.Count(d)
+		at := 0
+		for got, e := range pages.Each(d) {
+			want, wantErr := pages.Get(d, at)
+			content, contentErr := pages.Content(d, at)
+			if wantErr == api.OK && contentErr != api.OK {
+				want, wantErr = api.Page{}, contentErr
+			}
+			if treeErr != api.OK {
+				wantErr = treeErr
+			}
+			if !samePage(got.Page, want) || got.Content != content || e != wantErr {
+				t.Errorf("page %d of %s is %v, %d, want %v, %q, %d", at, brief(d), got, e, want, content, wantErr)
+			}
+			sample.Spoil(got.Res)
+			errs[e]++
+			at++
+		}
+		if treeErr == api.OK && at != n || treeErr != api.OK && at != 1 {
+			t.Errorf("%d pages of %s, which has %d", at, brief(d), n)
+		}
+		for range pages.Each(d) {
+			break
+		}
+		if !docs.Same(d, was) {
+			t.Errorf("the document has changed: %s", brief(was))
+		}
+	}
+	if errs[api.OK] < 1000 || errs[api.ErrPage] < 100 || errs[api.ErrForm] < 5 || errs[api.ErrLoop] < 20 {
+		t.Errorf("the errors are %v", errs)
+	}
+}
