@@ -9,25 +9,30 @@ func Forms() []api.Doc {
 		g := grove{mixer: mixer{uint32(n)}, size: 1 + n%4, flawed: n%7 == 0, odds: 80}
 		list = append(list, g.doc(func(entries map[string]api.Object) {
 			g.flawed, g.odds = n%2 == 0, 20
-			if g.once(12) {
-				entries["AcroForm"] = g.among(api.Object{}, Ref(99, 0), Dict(""), Dict("Fields", Array()))
-				return
-			}
-			fields := Array()
-			for range g.pick(5) {
-				fields.Kids = append(fields.Kids, g.blank(0))
-			}
-			form := map[string]api.Object{"Fields": g.either(fields), "Else": g.extra()}
-			if g.flaw() {
-				form["Fields"] = g.among(api.Object{}, g.anything(), Ref(99, 0), name("Fields"), Dict(""))
-			}
-			entries["AcroForm"] = g.either(Entries(form))
-			if g.flaw() {
-				entries["AcroForm"] = g.among(g.anything(), name("AcroForm"), Array())
-			}
+			g.blanks(entries)
 		}))
 	}
 	return list
+}
+
+// blanks adds a form to the entries of a catalog.
+func (g *grove) blanks(entries map[string]api.Object) {
+	if g.once(12) {
+		entries["AcroForm"] = g.among(api.Object{}, Ref(99, 0), Dict(""), Dict("Fields", Array()))
+		return
+	}
+	fields := Array()
+	for range g.pick(5) {
+		fields.Kids = append(fields.Kids, g.blank(0))
+	}
+	form := map[string]api.Object{"Fields": g.either(fields), "Else": g.extra()}
+	if g.flaw() {
+		form["Fields"] = g.among(api.Object{}, g.anything(), Ref(99, 0), name("Fields"), Dict(""))
+	}
+	entries["AcroForm"] = g.either(Entries(form))
+	if g.flaw() {
+		entries["AcroForm"] = g.among(g.anything(), name("AcroForm"), Array())
+	}
 }
 
 // blank makes a node of a form that is nested in so many others, and all below it.

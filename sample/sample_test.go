@@ -26,7 +26,7 @@ func TestSamplesAreValid(t *testing.T) {
 }
 
 func TestDocumentsAreValid(t *testing.T) {
-	for i, d := range slices.Concat(sample.Docs(), sample.Webs(), sample.Trees(), sample.Books(), sample.Sheets(), sample.Scenes(), sample.Forms(), []api.Doc{sample.Chain(1, 0), sample.Chain(api.MaxNum-1, api.MaxDepth-2)}) {
+	for i, d := range slices.Concat(sample.Docs(), sample.Webs(), sample.Trees(), sample.Books(), sample.Sheets(), sample.Scenes(), sample.Forms(), sample.Looks(), []api.Doc{sample.Chain(1, 0), sample.Chain(api.MaxNum-1, api.MaxDepth-2)}) {
 		if e := docs.Check(d); e != api.OK {
 			t.Errorf("document %d has the error %d", i, e)
 		}
